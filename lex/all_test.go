@@ -57,6 +57,41 @@ func TestWordAll(t *testing.T) {
 	}
 }
 
+// TestLongAll: P4, P13.1, every short text of each sort at the end of a script of MaxFile octets, and of a longer one. (A sum's ErrSyntax can't be told from the others here; TestLongFaults asks for it.)
+func TestLongAll(t *testing.T) {
+	most := strings.Repeat("x", api.MaxFile)
+	for _, c := range []struct {
+		ahead, octets string
+		most          int
+		sums          bool
+	}{
+		{"", "a\\'\"\n $`", 3, false}, {"", "a<(>)$;", 3, false}, {"$", "a1_@*#?{", 3, false}, {"${", "a1#?@}-`", 3, false}, {"${#a", "[@]}", 4, false}, {"\"${a-", "\"}'a`", 3, false}, {"${a/", "/}a\"", 3, false}, {"$'", "\\'ax\x00", 3, false}, {"${a^", "^}a", 3, false},
+		{"$((", "1()+ ", 4, true}, {"${a:", "1?:}", 4, true}, {"${a[", "1]}@", 4, true},
+	} {
+		for _, s := range spans(c.octets, c.most) {
+			s = c.ahead + s
+			for _, bash := range []bool{false, true} {
+				w, n, e := Word(s, 0, bash)
+				at := len(most) - len(s)
+				v, m, f := Word(most[:at]+s, at, bash)
+				if m != at+n || f != e || len(v.Parts) != len(w.Parts) {
+					t.Fatalf("P13.1: Word(%q, %t) at the end of a script of MaxFile octets: %s, want %d parts, %d, %d", s, bash, told(v, m, f), len(w.Parts), at+n, e)
+				}
+				if c.sums && e == api.ErrSyntax {
+					continue
+				}
+				want := told(api.Word{}, len(most)+n, e)
+				if e != api.ErrSyntax && e != api.ErrShort {
+					want = told(api.Word{}, len(most), api.ErrLong)
+				}
+				if got := told(Word(most+s, len(most), bash)); got != want && s != "" {
+					t.Fatalf("P13.1: Word(%q, %t) at the end of a script of more than MaxFile octets: %s, want %s", s, bash, got, want)
+				}
+			}
+		}
+	}
+}
+
 // TestOthersAll: P13.1, all but Word, of every short text, from each place.
 func TestOthersAll(t *testing.T) {
 	for _, s := range append(spans(" \\\n#a;", 5), spans("&|<>;(\n", 4)...) {

@@ -53,11 +53,11 @@ func (r *reader) ansi() api.Part {
 	from := r.at + 2
 	end, e := ansi.Scan(r.s, from)
 	if e != api.OK {
-		panic(fault{e, end})
+		panic(fault{errno: e, place: end})
 	}
 	s, place, e := ansi.Decode(r.s[from:end])
 	if e != api.OK {
-		panic(fault{e, from + place})
+		panic(fault{errno: e, place: from + place})
 	}
 	r.at = end + 1
 	return api.Part{Kind: text, Text: s, Op: strings.Clone("ansi"), Quoted: true}
@@ -151,9 +151,9 @@ func (r *reader) name(most int) string {
 	case rest == "":
 		panic(r.short())
 	case name == "":
-		panic(fault{api.ErrSyntax, r.at})
+		panic(r.here(api.ErrSyntax))
 	case len(name) > api.MaxName && !octets.Digits(name):
-		panic(fault{api.ErrLong, r.at})
+		panic(r.here(api.ErrLong))
 	}
 	r.at += len(name)
 	return strings.Clone(name)
@@ -214,7 +214,7 @@ func parted(s string) int {
 func (r *reader) parsed(from, end int) api.Sum {
 	x, place, e := arith.Parse(r.s[from:end], r.bash)
 	if e != api.OK {
-		panic(fault{e, from + place})
+		panic(fault{errno: e, place: from + place, sum: true})
 	}
 	return x
 }
@@ -223,7 +223,7 @@ func (r *reader) parsed(from, end int) api.Sum {
 func (r *reader) closed(from int) int {
 	end, e := Closed(r.s, from)
 	if e != api.OK {
-		panic(fault{e, end})
+		panic(fault{errno: e, place: end})
 	}
 	return end
 }

@@ -352,18 +352,94 @@ func TestDepth(t *testing.T) {
 	refuses(t, strings.Repeat("${a/b/", api.MaxNest+1), 0, true, 6*api.MaxNest+4, api.ErrDepth)
 }
 
-// TestLong: P13.1, a word of MaxFile octets, and one more; what stands ahead and behind doesn't count.
+// TestLong: P13.1, a script of MaxFile octets, and of one more: whatever begins at the place, and wherever that is.
 func TestLong(t *testing.T) {
 	full := strings.Repeat("a", api.MaxFile)
 	for _, bash := range []bool{false, true} {
-		for _, around := range []string{"", "   ", full + " "} {
-			reads(t, around+full+" "+full, len(around), bash, fmt.Sprintf("t%q", full), len(around+full))
-			refuses(t, around+full+"a "+full, len(around), bash, len(around), api.ErrLong)
-		}
+		reads(t, full, 0, bash, fmt.Sprintf("t%q", full), len(full))
+		reads(t, full, len(full)-3, bash, `t"aaa"`, len(full))
+		reads(t, full, len(full)+1, bash, "", len(full))
 		reads(t, "'"+full[2:]+"'", 0, bash, fmt.Sprintf("T%q", full[2:]), len(full))
+		for _, ahead := range []string{"", "   ", ";", "'a' ", "\"a\" ", "a ", "$a ", "${a-b} ", "$(a) ", "$((1)) ", "\\\n ", "# a\n"} {
+			rest := full[len(ahead):]
+			w, n, e := Word(ahead, 0, bash)
+			if got, want := told(Word(ahead+rest, 0, bash)), told(w, n, e); n < len(ahead) && got != want {
+				t.Errorf("P13.1: Word(%q and octets up to MaxFile, 0, %t): %.300s, want %s", ahead, bash, got, want)
+			}
+			refuses(t, ahead+rest+"a", 0, bash, 0, api.ErrLong)
+			refuses(t, rest+"a"+ahead, len(rest)+1, bash, len(rest)+1, api.ErrLong)
+			refuses(t, ahead+full+" "+full, len(ahead), bash, len(ahead), api.ErrLong)
+		}
+		refuses(t, full+"a", -1, bash, 0, api.ErrLong)
+		refuses(t, full+"a", math.MinInt, bash, 0, api.ErrLong)
+		refuses(t, full+"a", len(full), bash, len(full), api.ErrLong)
+		refuses(t, full+"a", len(full)+1, bash, len(full)+1, api.ErrLong)
+		refuses(t, full+"a", math.MaxInt, bash, len(full)+1, api.ErrLong)
+		refuses(t, full+" ", len(full), bash, len(full), api.ErrLong)
 		refuses(t, "'"+full[1:]+"'", 0, bash, 0, api.ErrLong)
 		refuses(t, full+"aa`", 0, bash, len(full)+2, api.ErrSyntax)
 		refuses(t, full+"aa'", 0, bash, len(full)+3, api.ErrShort)
+	}
+}
+
+// TestLongFaults: P4, P13.1, of a script that is too long the faults that the chapter names ahead of ErrLong are told, those behind it are not; of a script of MaxFile octets all are.
+func TestLongFaults(t *testing.T) {
+	most := strings.Repeat("x", api.MaxFile)
+	for _, c := range []struct {
+		s     string
+		place int // -1: the script's end
+		e     api.Errno
+		early bool
+	}{
+		{"`", 0, api.ErrSyntax, true}, {"a`", 1, api.ErrSyntax, true}, {"${}", 2, api.ErrSyntax, true}, {"${a b}", 3, api.ErrSyntax, true}, {"\"${a-\"", 5, api.ErrSyntax, true}, {"$((1) )", 5, api.ErrSyntax, true}, {"$'\\q'", 2, api.ErrSyntax, true},
+		{"'", -1, api.ErrShort, true}, {"a\"", -1, api.ErrShort, true}, {"${a-", -1, api.ErrShort, true}, {"$(", -1, api.ErrShort, true}, {"$((1", -1, api.ErrShort, true}, {"<(", -1, api.ErrShort, true}, {"$'", -1, api.ErrShort, true}, {"${a[", -1, api.ErrShort, true},
+		{"$" + most[:api.MaxName+1] + " ", 1, api.ErrLong, false}, {"${" + most[:api.MaxName+1] + "}", 2, api.ErrLong, false}, {strings.Repeat("${a-", api.MaxNest+1) + strings.Repeat("}", api.MaxNest+1), 4*api.MaxNest + 4, api.ErrDepth, false}, {"$'\x00'", 2, api.ErrText, false},
+		{"$((1+))", 5, api.ErrSyntax, false}, {"\"$((09))\"", 4, api.ErrSyntax, false}, {"${a:1+}", 6, api.ErrSyntax, false}, {"${a:1:2 3}", 8, api.ErrSyntax, false}, {"${a[]]}", 5, api.ErrSyntax, true}, {"${a[1 2]}", 6, api.ErrSyntax, false}, {"${b-$((;))}", 7, api.ErrSyntax, false},
+		{"$((" + strings.Repeat("- ", api.MaxDeep+1) + "1))", 3 + 2*api.MaxDeep, api.ErrDepth, false}, {"$((" + most[:api.MaxText+1] + "))", 3, api.ErrLong, false},
+		{"$((1+))`", 5, api.ErrSyntax, false}, {"`$((1+))", 0, api.ErrSyntax, true}, {"`'", 0, api.ErrSyntax, true}, {"$a`" + strings.Repeat("${a-", api.MaxNest+1), 2, api.ErrSyntax, true},
+	} {
+		place := func(ahead int, s string) int {
+			if c.place < 0 {
+				return len(s)
+			}
+			return ahead + c.place
+		}
+		behind := c.s + " " + most[len(c.s)+1:]
+		refuses(t, behind, 0, true, place(0, behind), c.e)
+		ahead := len(most) - len(c.s)
+		refuses(t, most[:ahead]+c.s, ahead, true, place(ahead, most), c.e)
+		for _, at := range []int{0, ahead + 1} {
+			s := behind + "x"
+			if at > 0 {
+				s = most[:at] + c.s
+			}
+			if c.early {
+				refuses(t, s, at, true, place(at, s), c.e)
+			} else {
+				refuses(t, s, at, true, at, api.ErrLong)
+			}
+		}
+	}
+}
+
+// TestLongOthers: P13.1, that a script is too long is told by no other call, as the chapter names it of none.
+func TestLongOthers(t *testing.T) {
+	full := strings.Repeat("a", api.MaxFile)
+	for _, bash := range []bool{false, true} {
+		for _, plain := range []bool{false, true} {
+			if got, want := told(Heredoc("b\nE\n"+full, 0, "E", plain, bash)), `T"b\n"; 4; 0`; got != want {
+				t.Errorf("P13.1: Heredoc in a script that is too long: %.300s, want %s", got, want)
+			}
+		}
+		if got := Operator(full+";;", len(full), bash); got != ";;" {
+			t.Errorf("P13.1: Operator in a script that is too long: %q", got)
+		}
+	}
+	if n, e := Closed(full+")", 0); n != len(full) || e != api.OK {
+		t.Error("P13.1: Closed in a script that is too long:", n, e)
+	}
+	if n := Space(full+"  ", len(full)); n != len(full)+2 {
+		t.Error("P13.1: Space in a script that is too long:", n)
 	}
 }
 

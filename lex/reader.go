@@ -16,10 +16,16 @@ const (
 	inLines          // the lines of a heredoc: all of them
 )
 
-// fault tells what is wrong with a text, and where: it is what reading panics with.
+// fault tells what is wrong with a text, and where: it is what reading panics with. A sum's is one that arith tells.
 type fault struct {
 	errno api.Errno
 	place int
+	sum   bool
+}
+
+// early: does the chapter name the fault ahead of ErrLong? A sum's it names last, whatever its number.
+func (f fault) early() bool {
+	return !f.sum && (f.errno == api.ErrSyntax || f.errno == api.ErrShort)
 }
 
 // reader reads the text s from the place at on; depth is how many words the one that it reads is within.
@@ -61,7 +67,7 @@ func (r *reader) quotes(way int) []api.Part {
 // within reads likewise a word that is within the one that is being read.
 func (r *reader) within(way int) []api.Part {
 	if r.depth == api.MaxNest {
-		panic(fault{api.ErrDepth, r.at})
+		panic(r.here(api.ErrDepth))
 	}
 	r.depth++
 	l := r.parts(way)
@@ -95,7 +101,7 @@ func (r *reader) over(way int) bool {
 func (r *reader) part(way int, b *bag) {
 	switch c := r.s[r.at]; {
 	case c == '`', c == '"' && way == inBoth:
-		panic(fault{api.ErrSyntax, r.at})
+		panic(r.here(api.ErrSyntax))
 	case c == '\\':
 		r.escaped(way, b)
 	case c == '$':
@@ -162,10 +168,15 @@ func (r *reader) want(l ...string) string {
 	if _, ok := first(l, func(x string) bool { return strings.HasPrefix(x, rest) }); ok {
 		panic(r.short())
 	}
-	panic(fault{api.ErrSyntax, r.at})
+	panic(r.here(api.ErrSyntax))
+}
+
+// here: a fault of what stands at the place.
+func (r *reader) here(e api.Errno) fault {
+	return fault{errno: e, place: r.at}
 }
 
 // short: the fault that the text ends too early.
 func (r *reader) short() fault {
-	return fault{api.ErrShort, len(r.s)}
+	return fault{errno: api.ErrShort, place: len(r.s)}
 }
